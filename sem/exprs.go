@@ -58,6 +58,16 @@ func (m *maker) placed(x *api.Expr) {
 	}
 	size := m.size(x.Type)
 	m.add(func(f *frame) { f.push(f.load(f.pop().Ptr, size)) })
+	m.as(x.Type)
+}
+
+// as makes a value of a type of what was loaded, which may have been stored by another one: a pointer to structs that was moved so far that it wrapped round may be to the middle of one.
+func (m *maker) as(t api.Type) {
+	if t.Stars == 0 {
+		m.narrow(t)
+		return
+	}
+	m.one(func(v heap.Value) heap.Value { return heap.Value{Ptr: v.Ptr} })
 }
 
 // place makes the deeds that put the pointer to where something is upon the values, without a load there.

@@ -281,6 +281,29 @@ func isLvalue(x api.Expr) bool {
 	return x.Kind == api.EName || x.Kind == api.EUnary && x.Op == "*" || x.Kind == api.EIndex || x.Kind == api.EField
 }
 
+// seenAs is what was stored, as it is loaded by a type, which may be another one.
+func (c *modelCall) seenAs(v any, t api.Type) any {
+	n, isNum := v.(int64)
+	if isNum == (t.Stars > 0) {
+		c.done["another"]++
+		return c.zero(t)
+	}
+	if isNum {
+		return shortened(n, t)
+	}
+	return v
+}
+
+func shortened(n int64, t api.Type) int64 {
+	switch t.Base {
+	case api.Char:
+		return int64(int8(n))
+	case api.Int:
+		return int64(int32(n))
+	}
+	return n
+}
+
 // where is the pointer to an lvalue.
 func (c *modelCall) where(x api.Expr) modelPtr {
 	c.begin()
@@ -331,10 +354,11 @@ func (c *modelCall) value(x api.Expr) any {
 		}
 		cells := reach(p, c.sizeOf(x.Type))
 		c.done["load"]++
-		if v, ok := cells[p.at]; ok {
-			return v
+		v, ok := cells[p.at]
+		if !ok {
+			return c.zero(x.Type)
 		}
-		return c.zero(x.Type)
+		return c.seenAs(v, x.Type)
 	}
 	c.begin()
 	switch x.Kind {
@@ -356,14 +380,7 @@ func (c *modelCall) value(x api.Expr) any {
 		c.done["store"]++
 		return v
 	case api.ECast:
-		n := c.value(x.Kids[0]).(int64)
-		switch x.Type.Base {
-		case api.Char:
-			n = int64(int8(n))
-		case api.Int:
-			n = int64(int32(n))
-		}
-		return n
+		return shortened(c.value(x.Kids[0]).(int64), x.Type)
 	case api.EMalloc:
 		n := c.value(x.Kids[0]).(int64)
 		if n < 1 || n > 1<<22 {

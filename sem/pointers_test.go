@@ -114,6 +114,25 @@ func TestFields(t *testing.T) {
 	ends(t, s+"int main() { struct s *p = (struct s *) malloc(24); p->l = 3; p->p = 0; putchar('a'); }", "a", 0)
 }
 
+// P9.1: where another type's value was stored, a number is loaded as one of its own type, a pointer as one: to nothing, where a number stands. (A third of 2^62 and so on, times 12, is 4, since all wraps round: so a pointer comes to stand askew in a struct.)
+func TestAskew(t *testing.T) {
+	const numbers = "struct s { char c; int i; int j; }; struct s v[2]; struct s *p; int main() { p = v + 0x2aaaaaaaaaaaaaab; "
+	ends(t, numbers+"v->i = 300; return p->c; }", "", 44)
+	ends(t, numbers+"v->i = 128; if (p->c == -128) return p->c + 256 - 120; return 1; }", "", 8)
+	ends(t, numbers+"v->i = 256; if (p->c) return 1; return !p->c + 1; }", "", 2)
+	ends(t, numbers+"v->j = -2; return p->i + 5; }", "", 3)
+	ends(t, numbers+"p->c = 200; return v->i + 60; }", "", 4)
+	stuck(t, numbers+"p->j = 3; putchar('0' + v[1].c); return (p + 1)->j; }", "3", api.ErrBounds)
+	const mixed = "struct s { int *p; long n; int i; }; int x; struct s v[2]; struct s *p; int main() { x = 7; p = v + 0x0aaaaaaaaaaaaaab; "
+	ends(t, mixed+"v->n = 5; if (p->p) return 1; if (p->p != 0) return 2; return (p->p == 0) + !p->p; }", "", 2)
+	stuck(t, mixed+"v->n = 5; putchar('a'); return *p->p; }", "a", api.ErrNull)
+	ends(t, mixed+"v[1].p = &x; if (p->i) return 1; if (p->i != 0) return 2; return (p->i == 0) + !p->i + p->i; }", "", 2)
+	ends(t, mixed+"v[1].p = &x; p->i = 3; if (v[1].p) return 1; v[1].p = &x; return *v[1].p; }", "", 7)
+	ends(t, mixed+"p->p = &x; if (v->n) return 1; long n = v->n; p->p = p->p; return *p->p + (n == 0) + (v->n == 0); }", "", 9)
+	ends(t, mixed+"v->n = 4294967296 * 3 + 8; p = v - 0x0aaaaaaaaaaaaaab; return p->i; }", "", 8)
+	ends(t, mixed+"v->n = 4294967296 * 3; p = v - 0x0aaaaaaaaaaaaaab; if (p->i) return 1; return !p->i + (p->i == 0); }", "", 2)
+}
+
 // P9.1: malloc, of which numbers there is a block.
 func TestMalloc(t *testing.T) {
 	for _, n := range []string{"0", "-1", "4194305", "4294967296", "4294967297", "9223372036854775807", "-9223372036854775807 - 1", "-4294967288", "4194304 + 1"} {

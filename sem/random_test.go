@@ -9,13 +9,13 @@ import (
 	"hauberk/check"
 	"hauberk/parse"
 	"hauberk/sem"
+	"hauberk/texts"
 )
 
 // someProgram is one at random, and its input; false, if it became too long or too deep.
-func someProgram(t *testing.T, seed int64) (api.Program, []byte, string, bool) {
+func someProgram(t *testing.T, seed int) (api.Program, []byte, string, bool) {
 	t.Helper()
-	m := &maker{Rand: rand.New(rand.NewSource(seed)), wild: []int{4, 12, 40, 200}[seed%4]}
-	text := m.program()
+	text, input := texts.Random(seed)
 	p, at, e := parse.Parse(text)
 	if e == api.ErrDeep || e == api.ErrFull {
 		return p, nil, "", false
@@ -27,24 +27,20 @@ func someProgram(t *testing.T, seed int64) (api.Program, []byte, string, bool) {
 	if e != api.OK {
 		t.Fatalf("%d: %s: %d at %d", seed, text, e, at)
 	}
-	input := make([]byte, m.Intn(5))
-	for k := range input {
-		input[k] = byte(m.Intn(256))
-	}
 	return p, input, text, true
 }
 
 // P9.1: random programs do what the model does, with as much fuel; they stop in all ways in which one may.
 func TestModel(t *testing.T) {
 	tally, done := map[[2]int]int{}, map[string]int{}
-	for seed := range int64(5000) {
+	for seed := range 5000 {
 		p, input, text, ok := someProgram(t, seed)
 		if !ok {
 			continue
 		}
 		fuel := 3000
 		if seed%8 == 0 {
-			fuel = rand.New(rand.NewSource(seed)).Intn(200)
+			fuel = rand.New(rand.NewSource(int64(seed))).Intn(200)
 		}
 		got, want := sem.Run(p, input, fuel), modelRun(p, input, fuel, done)
 		if !same(got, want) {
@@ -57,8 +53,8 @@ func TestModel(t *testing.T) {
 			t.Errorf("only %d programs stop by %v", tally[way], way)
 		}
 	}
-	for _, what := range []string{"load", "store", "call", "again", "malloc", "free", "getchar"} {
-		if done[what] < 1000 {
+	for what, least := range map[string]int{"load": 1000, "store": 1000, "call": 1000, "again": 1000, "malloc": 1000, "free": 1000, "getchar": 1000, "another": 10} {
+		if done[what] < least {
 			t.Errorf("%s: only %d times", what, done[what])
 		}
 	}
@@ -66,7 +62,7 @@ func TestModel(t *testing.T) {
 
 // P9.1, P9.2: random programs with each fuel up to what they need, or to so much.
 func TestLess(t *testing.T) {
-	for seed := range int64(300) {
+	for seed := range 300 {
 		p, input, text, ok := someProgram(t, seed)
 		if !ok {
 			continue
@@ -80,7 +76,7 @@ func TestLess(t *testing.T) {
 
 // P9.3, P7 (R6, R8): of random programs what is handed in stays, and the answer is the same each time.
 func TestStays(t *testing.T) {
-	for seed := range int64(500) {
+	for seed := range 500 {
 		p, input, text, ok := someProgram(t, seed)
 		if !ok {
 			continue
@@ -95,6 +91,8 @@ func TestStays(t *testing.T) {
 		}
 	}
 }
+
+func pick[T any](r *rand.Rand, l ...T) T { return l[r.Intn(len(l))] }
 
 // spoil makes something of a tree another thing.
 func spoil(r *rand.Rand, p *api.Program) {
@@ -130,7 +128,7 @@ func spoil(r *rand.Rand, p *api.Program) {
 	case 2:
 		x.Kids = nil
 	case 3:
-		x.Type = pick(r, void, char, long, recS, to(recT, 2), api.Type{Base: -1, Stars: -1})
+		x.Type = pick(r, api.Type{}, api.Type{Base: api.Char}, api.Type{Base: api.Long}, api.Type{Base: api.Record, Struct: "s"}, api.Type{Base: api.Record, Struct: "t", Stars: 2}, api.Type{Base: -1, Stars: -1})
 	case 4:
 		x.Name = pick(r, "", "main", "$0", "gi", "gs", "putchar")
 	case 5:
@@ -140,12 +138,12 @@ func spoil(r *rand.Rand, p *api.Program) {
 
 // P6: trees that no text has are nothing's promise, but nothing panics.
 func TestSpoilt(t *testing.T) {
-	for seed := range int64(3000) {
+	for seed := range 3000 {
 		p, input, _, ok := someProgram(t, seed)
 		if !ok {
 			continue
 		}
-		r := rand.New(rand.NewSource(seed))
+		r := rand.New(rand.NewSource(int64(seed)))
 		for range 1 + r.Intn(3) {
 			spoil(r, &p)
 		}
