@@ -4,6 +4,8 @@ import (
 	"hauberk/api"
 	"hauberk/heap"
 	"hauberk/num"
+	"hauberk/runs"
+	"hauberk/units"
 )
 
 // deed is what an instruction does in its call.
@@ -74,7 +76,7 @@ func (f *frame) is(i *api.Ins) {
 // load takes of what stands there what the register is for.
 func (f *frame) load(i *api.Ins) {
 	v, e := f.Load(f.ptr(i.A), i.Size)
-	right(e)
+	runs.Right(e)
 	if f.fn.Kinds[i.Dst] == pointer {
 		f.setPtr(i.Dst, v.Ptr)
 		return
@@ -85,20 +87,20 @@ func (f *frame) load(i *api.Ins) {
 func (f *frame) store(i *api.Ins) {
 	v := f.registers[i.B]
 	v.Num = low(v.Num, i.Size)
-	right(f.Store(f.ptr(i.A), i.Size, v))
+	runs.Right(f.Store(f.ptr(i.A), i.Size, v))
 }
 
 func (f *frame) empty(i *api.Ins) { f.Clear(f.slots[i.N].Block) }
 
 func (f *frame) malloc(i *api.Ins) {
 	size := num.Signed(f.num(i.A))
-	if !within(size, 1, api.MaxMemory) {
-		panic(stop{state: api.NoRoom})
+	if !units.Within(size, 1, api.MaxMemory) {
+		runs.Stop(api.NoRoom)
 	}
 	f.setPtr(i.Dst, f.block(size, true))
 }
 
-func (f *frame) free(i *api.Ins) { right(f.Free(f.ptr(i.A))) }
+func (f *frame) free(i *api.Ins) { runs.Right(f.Free(f.ptr(i.A))) }
 
 func (f *frame) call(i *api.Ins) {
 	g := f.enter(f.fns[i.Name], i.Dst)
@@ -123,8 +125,8 @@ func (f *frame) branch(i *api.Ins) {
 	}
 }
 
-func (f *frame) put(i *api.Ins) { f.Out = append(f.Out, byte(f.num(i.A))) }
+func (f *frame) put(i *api.Ins) { f.Put(f.num(i.A)) }
 
-func (f *frame) get(i *api.Ins) { f.setNum(i.Dst, f.read()) }
+func (f *frame) get(i *api.Ins) { f.setNum(i.Dst, f.Get()) }
 
-func (f *frame) exit(i *api.Ins) { exit(f.num(i.A)) }
+func (f *frame) exit(i *api.Ins) { runs.Exit(f.num(i.A)) }

@@ -1,6 +1,9 @@
 package mid
 
-import "hauberk/api"
+import (
+	"hauberk/api"
+	"hauberk/units"
+)
 
 // The kinds of registers, as bits, so that more than one may be allowed.
 const (
@@ -43,26 +46,14 @@ var registers = [...]uses{
 
 // fnFits tells whether a function is well formed, whatever else its unit has.
 func fnFits(f api.Fn) bool {
-	return f.Name != "" &&
-		all(f.Kinds, func(kind int) bool { return within(kind, number, pointer) }) &&
-		all(f.Slots, func(size int) bool { return within(size, 1, api.MaxFrame) }) &&
-		all(f.Params, func(r int) bool { return registerFits(&f, r, either) }) && differ(f.Params) &&
-		all(f.Code, func(i api.Ins) bool { return insFits(&f, &i) }) && endFits(f.Code)
-}
-
-// endFits tells whether nothing leads behind the last instruction.
-func endFits(l []api.Ins) bool {
-	if len(l) == 0 {
-		return false
-	}
-	op := l[len(l)-1].Op
-	return op == api.MRet || op == api.MJump || op == api.MExit
+	return units.Head(&f, pointer) && units.End(&f, api.MRet) &&
+		units.All(f.Code, func(i api.Ins) bool { return insFits(&f, &i) })
 }
 
 // insFits tells whether an instruction is one that its function may have, where each of its parts that isn't used is 0.
 func insFits(f *api.Fn, i *api.Ins) bool {
-	return within(i.Op, api.MConst, api.MExit) &&
-		registersFit(f, i) && kindsFit(f, i) && numberFits(f, i) && sizeFits(i) && listsFit(f, i) && toFits(f, i) &&
+	return units.Within(i.Op, api.MConst, api.MExit) &&
+		registersFit(f, i) && kindsFit(f, i) && numberFits(f, i) && sizeFits(i) && listsFit(f, i) && units.To(f, i) &&
 		(i.Name != "") == isNamed(i.Op)
 }
 
@@ -78,7 +69,7 @@ func registerFits(f *api.Fn, r, kinds int) bool {
 	case r == none:
 		return kinds&absent != 0
 	}
-	return within(r, 0, len(f.Kinds)-1) && f.Kinds[r]&kinds != 0
+	return units.Register(f, r) && f.Kinds[r]&kinds != 0
 }
 
 // kindsFit tells whether a register that may be of either kind is of the one that the rest of the instruction asks for.
@@ -99,7 +90,7 @@ func numberFits(f *api.Fn, i *api.Ins) bool {
 	case api.MConst:
 		return true
 	case api.MOp:
-		return i.N >= api.ADD && i.N <= api.REMUW
+		return units.Operation(i.N)
 	case api.MLocal, api.MClear:
 		return i.N < uint64(len(f.Slots))
 	case api.MPart:
@@ -111,25 +102,15 @@ func numberFits(f *api.Fn, i *api.Ins) bool {
 func sizeFits(i *api.Ins) bool {
 	switch i.Op {
 	case api.MNarrow, api.MLoad, api.MStore:
-		return i.Size == 1 || i.Size == 4 || i.Size == 8
+		return units.Width(i.Size)
 	case api.MPart:
-		return within(i.Size, 1, api.MaxMemory)
+		return units.Within(i.Size, 1, api.MaxMemory)
 	}
 	return i.Size == 0
 }
 
 func listsFit(f *api.Fn, i *api.Ins) bool {
-	if i.Op != api.MCall && len(i.Args) > 0 {
-		return false
-	}
-	return len(i.Outs) == 0 && all(i.Args, func(r int) bool { return registerFits(f, r, either) })
-}
-
-func toFits(f *api.Fn, i *api.Ins) bool {
-	if i.Op == api.MJump || i.Op == api.MIf {
-		return within(i.To, 0, len(f.Code)-1)
-	}
-	return i.To == 0
+	return (i.Op == api.MCall || len(i.Args) == 0) && len(i.Outs) == 0 && units.Registers(f, i.Args)
 }
 
 func isNamed(op int) bool { return op == api.MTop || op == api.MCall }

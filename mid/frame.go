@@ -3,6 +3,7 @@ package mid
 import (
 	"hauberk/api"
 	"hauberk/heap"
+	"hauberk/runs"
 )
 
 // frame is a call that hasn't ended. It is none of Go's: a unit's may be deeper in one another than these, and a stack of Go's that is full can't be caught.
@@ -39,7 +40,7 @@ func (f *frame) leave(answer heap.Value) {
 		f.End(p.Block)
 	}
 	if f.caller == nil {
-		exit(answer.Num)
+		runs.Exit(answer.Num)
 	}
 	if f.dst != none {
 		f.caller.registers[f.dst] = answer
@@ -49,7 +50,7 @@ func (f *frame) leave(answer heap.Value) {
 
 // next does an instruction.
 func (f *frame) next() {
-	f.take()
+	f.Take()
 	i := &f.fn.Code[f.at]
 	f.at++
 	f.deeds[i.Op](f, i)

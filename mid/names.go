@@ -4,6 +4,7 @@ import (
 	"slices"
 
 	"hauberk/api"
+	"hauberk/units"
 )
 
 // face is what a call has to know of a function: the kinds of its params, and those of what it answers (0, if it never does).
@@ -18,8 +19,6 @@ type names struct {
 	fns  map[string]face
 }
 
-func topFits(t api.Top) bool { return t.Name != "" && within(t.Size, 0, api.MaxMemory) }
-
 // namesFit tells whether a unit of functions that are well formed is, too.
 func namesFit(u api.Unit) bool {
 	n := namesOf(u)
@@ -27,7 +26,7 @@ func namesFit(u api.Unit) bool {
 		return false
 	}
 	main, ok := n.fns["main"]
-	return ok && len(main.params) == 0 && all(u.Fns, n.fit)
+	return ok && len(main.params) == 0 && units.All(u.Fns, n.fit)
 }
 
 // namesOf are fewer than a unit has, if some are the same.
@@ -63,7 +62,7 @@ func answersOf(f *api.Fn) int {
 
 // fit tells whether a function answers of one kind, and what it names is there.
 func (n *names) fit(f api.Fn) bool {
-	return n.fns[f.Name].answers != either && all(f.Code, func(i api.Ins) bool { return n.has(&f, &i) })
+	return n.fns[f.Name].answers != either && units.All(f.Code, func(i api.Ins) bool { return n.has(&f, &i) })
 }
 
 // has tells whether what an instruction names is there, and, if it is a function, may be called so.

@@ -19,7 +19,7 @@ type label struct{ at int }
 func (m *maker) add(do deed) { m.deeds = append(m.deeds, do) }
 
 // begin takes the fuel for what comes next.
-func (m *maker) begin() { m.add((*frame).take) }
+func (m *maker) begin() { m.add((*frame).Take) }
 
 func (m *maker) put(l *label) { l.at = len(m.deeds) }
 

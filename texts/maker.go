@@ -4,11 +4,12 @@ import (
 	"strconv"
 
 	"hauberk/api"
+	"hauberk/chance"
 )
 
 // maker makes texts of programs at random, all of them right; most go on for a while before they go wrong, if they do.
 type maker struct {
-	source
+	chance.Source
 	wild   int // one of so many pointers is anything
 	vars   []made
 	funcs  []madeFunc
@@ -34,7 +35,7 @@ func (m *maker) fresh(prefix string) string {
 	return prefix + strconv.Itoa(m.count)
 }
 
-func (m *maker) rarely() bool { return m.below(m.wild) == 0 }
+func (m *maker) rarely() bool { return m.Below(m.wild) == 0 }
 
 // seen are the variables that are as is asked for.
 func (m *maker) seen(is func(made) bool) []made {

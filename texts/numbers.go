@@ -8,10 +8,10 @@ import (
 )
 
 func (m *maker) literal() string {
-	if m.below(4) == 0 {
+	if m.Below(4) == 0 {
 		return pick(m, "255", "128", "300", "65536", "2147483647", "2147483648", "4294967297", "9223372036854775807", "0x7fffffff", "0x8000000000")
 	}
-	return strconv.Itoa(m.below(9))
+	return strconv.Itoa(m.Below(9))
 }
 
 // index is mostly a small number.
@@ -19,21 +19,21 @@ func (m *maker) index(n int) string {
 	switch {
 	case m.rarely():
 		return m.num(n)
-	case m.below(3) == 0:
+	case m.Below(3) == 0:
 		return "(" + m.num(n/2) + " & 1)"
 	}
-	return strconv.Itoa(m.below(2))
+	return strconv.Itoa(m.Below(2))
 }
 
 // num is a number, of some n parts at most.
 func (m *maker) num(n int) string {
 	if n < 1 {
-		if m.below(2) == 0 {
+		if m.Below(2) == 0 {
 			return m.literal()
 		}
 		return m.lvalue(m.number(), 0)
 	}
-	switch m.below(16) {
+	switch m.Below(16) {
 	case 0, 1, 2:
 		return "(" + m.num(n/2) + pick(m, " + ", " - ", " * ", " / ", " % ", " & ", " | ", " ^ ", " << ", " >> ") + m.num(n/2) + ")"
 	case 3:
@@ -61,7 +61,7 @@ func (m *maker) num(n int) string {
 
 // cond is a number or a pointer.
 func (m *maker) cond(n int) string {
-	if m.below(4) == 0 {
+	if m.Below(4) == 0 {
 		return m.ptr(m.pointer(), n)
 	}
 	return m.num(n)
@@ -91,7 +91,7 @@ func (m *maker) given(t api.Type, n int) string {
 	switch {
 	case t.Stars == 0:
 		return m.num(n)
-	case m.below(12) == 0:
+	case m.Below(12) == 0:
 		return "0"
 	}
 	return m.ptr(t, n)

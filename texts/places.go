@@ -9,16 +9,16 @@ import (
 // lvalue is one of just that type.
 func (m *maker) lvalue(t api.Type, n int) string {
 	l := m.seen(func(v made) bool { return v.t == t && v.len == 0 })
-	if n < 1 || len(l) > 0 && m.below(3) > 0 {
+	if n < 1 || len(l) > 0 && m.Below(3) > 0 {
 		if len(l) > 0 {
 			return pick(m, l...).name
 		}
 		if l = m.seen(func(v made) bool { return v.t == t }); len(l) > 0 {
 			v := pick(m, l...)
-			return v.name + "[" + strconv.Itoa(m.below(v.len)) + "]"
+			return v.name + "[" + strconv.Itoa(m.Below(v.len)) + "]"
 		}
 	}
-	if t.Stars < 3 && m.below(2) == 0 {
+	if t.Stars < 3 && m.Below(2) == 0 {
 		return m.through(t, n-1)
 	}
 	var of []field
@@ -32,7 +32,7 @@ func (m *maker) lvalue(t api.Type, n int) string {
 	}
 	f := pick(m, of...)
 	l = m.seen(func(v made) bool { return v.t == f.of })
-	if len(l) > 0 && (n < 1 || m.below(2) == 0) {
+	if len(l) > 0 && (n < 1 || m.Below(2) == 0) {
 		v := pick(m, l...)
 		if v.len > 0 {
 			return v.name + "[" + m.index(n-1) + "]." + f.name
@@ -45,7 +45,7 @@ func (m *maker) lvalue(t api.Type, n int) string {
 // through is what a pointer points to.
 func (m *maker) through(t api.Type, n int) string {
 	p := m.ptr(to(t, 1), n)
-	if m.below(2) == 0 {
+	if m.Below(2) == 0 {
 		return "(*" + p + ")"
 	}
 	return p + "[" + m.index(n) + "]"
@@ -65,7 +65,7 @@ func (m *maker) ptr(t api.Type, n int) string {
 		return askew(t)
 	}
 	if n > 0 {
-		switch m.below(9) {
+		switch m.Below(9) {
 		case 0, 1:
 			return "(&" + m.lvalueOf(to(t, -1), n-1) + ")"
 		case 2:
@@ -81,15 +81,15 @@ func (m *maker) ptr(t api.Type, n int) string {
 		}
 	}
 	l := m.seen(func(v made) bool { return v.len > 0 && to(v.t, 1) == t })
-	if len(l) > 0 && m.below(3) > 0 {
+	if len(l) > 0 && m.Below(3) > 0 {
 		return pick(m, l...).name
 	}
 	l = m.seen(func(v made) bool { return v.t == t && v.len == 0 })
-	if len(l) > 0 && m.below(8) > 0 {
+	if len(l) > 0 && m.Below(8) > 0 {
 		return pick(m, l...).name
 	}
 	l = m.seen(func(v made) bool { return v.len == 0 && to(v.t, 1) == t })
-	if len(l) > 0 && m.below(4) > 0 {
+	if len(l) > 0 && m.Below(4) > 0 {
 		return "(&" + pick(m, l...).name + ")"
 	}
 	return m.malloc(t)
@@ -109,7 +109,7 @@ func (m *maker) lvalueOf(t api.Type, n int) string {
 		return m.lvalue(t, n)
 	}
 	l := m.seen(func(v made) bool { return v.t == t && v.len == 0 })
-	if len(l) > 0 && m.below(3) > 0 {
+	if len(l) > 0 && m.Below(3) > 0 {
 		return pick(m, l...).name
 	}
 	return m.through(t, n)

@@ -9,7 +9,7 @@ import (
 func (m *maker) block(n int) string {
 	was := len(m.vars)
 	s := "{ "
-	for range 1 + m.below(4) {
+	for range 1 + m.Below(4) {
 		s += m.stmt(n)
 	}
 	m.vars = m.vars[:was]
@@ -18,7 +18,7 @@ func (m *maker) block(n int) string {
 
 // inner is the statement in an if or a while, mostly a block.
 func (m *maker) inner(n int) string {
-	switch m.below(8) {
+	switch m.Below(8) {
 	case 0:
 		return "putchar(" + m.num(n) + "); "
 	case 1:
@@ -31,7 +31,7 @@ func (m *maker) inner(n int) string {
 
 func (m *maker) stmt(n int) string {
 	if n > 1 {
-		switch m.below(9) {
+		switch m.Below(9) {
 		case 0:
 			return "if (" + m.cond(n) + ") " + m.inner(n/2) + pick(m, "", "else "+m.inner(n/2))
 		case 1, 2:
@@ -40,7 +40,7 @@ func (m *maker) stmt(n int) string {
 			return m.block(n / 2)
 		}
 	}
-	switch m.below(20) {
+	switch m.Below(20) {
 	case 0, 1, 2, 3:
 		return m.local(n)
 	case 4, 5, 6:
@@ -53,7 +53,7 @@ func (m *maker) stmt(n int) string {
 			return "if (" + m.cond(n/2) + ") " + pick(m, "break; ", "continue; ")
 		}
 	case 10:
-		if m.below(3) == 0 {
+		if m.Below(3) == 0 {
 			return m.returning(n)
 		}
 		return "if (" + m.cond(n/2) + ") " + m.returning(n)
@@ -77,7 +77,7 @@ func (m *maker) freeing(n int) string {
 	switch {
 	case m.rarely():
 		return "free(" + m.ptr(t, n) + "); "
-	case len(l) > 0 && m.below(2) == 0:
+	case len(l) > 0 && m.Below(2) == 0:
 		v := pick(m, l...).name
 		return v + " = " + m.malloc(t) + "; free(" + v + "); " + m.after(v, t)
 	}
@@ -86,7 +86,7 @@ func (m *maker) freeing(n int) string {
 
 // after is what is done to a variable whose block is gone: mostly it points elsewhere from then on.
 func (m *maker) after(v string, t api.Type) string {
-	if m.below(m.wild) > 2 {
+	if m.Below(m.wild) > 2 {
 		return v + " = " + pick(m, "0", m.malloc(t), m.malloc(t), v) + "; "
 	}
 	what := "*" + v
@@ -114,14 +114,14 @@ func (m *maker) loop(n int) string {
 		return "while (" + m.cond(n/2) + ") " + m.inner(n/2)
 	}
 	i := m.fresh("i")
-	return "{ int " + i + " = 0; while ((" + i + " = " + i + " + 1) < " + strconv.Itoa(2+m.below(4)) + ") " + m.inner(n/2) + "} "
+	return "{ int " + i + " = 0; while ((" + i + " = " + i + " + 1) < " + strconv.Itoa(2+m.Below(4)) + ") " + m.inner(n/2) + "} "
 }
 
 func (m *maker) local(n int) string {
 	v := made{name: m.fresh("v"), t: m.scalar()}
-	switch m.below(5) {
+	switch m.Below(5) {
 	case 0:
-		v.len = 2 + m.below(3)
+		v.len = 2 + m.Below(3)
 	case 1:
 		v.t = pick(m, recS, recT)
 		v.len = pick(m, 0, 2)
@@ -131,7 +131,7 @@ func (m *maker) local(n int) string {
 	case v.len > 0:
 		s += "[" + strconv.Itoa(v.len) + "]"
 	case v.t == recS || v.t == recT:
-	case v.t.Stars > 0 || m.below(2) == 0:
+	case v.t.Stars > 0 || m.Below(2) == 0:
 		s += " = " + m.given(v.t, n)
 	}
 	m.vars = append(m.vars, v)

@@ -18,10 +18,10 @@ func (m *maker) function(f madeFunc, first string, n int) string {
 		params = append(params, written(t)+v.name)
 	}
 	s := written(f.answer) + f.name + "(" + strings.Join(params, ", ") + ") { " + first
-	for range 2 + m.below(4) {
+	for range 2 + m.Below(4) {
 		s += m.stmt(n)
 	}
-	if f.answer != void && m.below(4) > 0 {
+	if f.answer != void && m.Below(4) > 0 {
 		s += m.returning(n)
 	}
 	m.vars = m.vars[:was]
@@ -31,13 +31,13 @@ func (m *maker) function(f madeFunc, first string, n int) string {
 func (m *maker) program() string {
 	s := structs() + m.variables()
 	all := []madeFunc{{"main", in, nil}}
-	for range 1 + m.below(3) {
+	for range 1 + m.Below(3) {
 		all = append(all, m.head())
 	}
 	first := m.setup()
 	for k, f := range all {
 		m.funcs = all[k+1:]
-		if m.below(4) == 0 {
+		if m.Below(4) == 0 {
 			m.funcs = all
 		}
 		s += m.function(f, first, 5)
@@ -93,7 +93,7 @@ func (m *maker) setup() string {
 
 func (m *maker) head() madeFunc {
 	f := madeFunc{name: m.fresh("f"), answer: pick(m, void, m.scalar(), m.scalar())}
-	for range m.below(4) {
+	for range m.Below(4) {
 		f.params = append(f.params, m.scalar())
 	}
 	return f

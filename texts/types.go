@@ -45,7 +45,7 @@ func (m *maker) pointer() api.Type {
 }
 
 func (m *maker) scalar() api.Type {
-	if m.below(5) < 2 {
+	if m.Below(5) < 2 {
 		return m.pointer()
 	}
 	return m.number()
