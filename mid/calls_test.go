@@ -6,6 +6,7 @@ import (
 
 	"hauberk/api"
 	"hauberk/mid"
+	"hauberk/samples"
 )
 
 // P10.1: Params are what is handed over, in order; the registers beside them are 0 and to nothing in each call.
@@ -77,30 +78,12 @@ func TestSameNames(t *testing.T) {
 	ran(t, u, "", api.Result{State: api.Exit, Code: 6, Steps: 7})
 }
 
-// all runs a unit with each fuel up to what it needs: with less it is Running, and puts out a beginning of what it does.
+// all runs a unit with each fuel up to what it needs, and with more.
 func all(t *testing.T, u api.Unit, input []byte, limit int) api.Result {
 	t.Helper()
-	whole := mid.Run(u, input, limit)
-	if whole.Steps > limit || whole.Checks != 0 || whole.State == api.Running && whole.Steps != limit {
-		t.Fatalf("P10.1: %v: %v with %d of fuel", u, whole, limit)
-	}
-	out := ""
-	for fuel := range whole.Steps {
-		r := mid.Run(u, input, fuel)
-		if r.State != api.Running || r.Steps != fuel || r.Code != 0 || r.Why != 0 || r.Checks != 0 {
-			t.Fatalf("P10.1: %v: %v with %d of fuel", u, r, fuel)
-		}
-		if len(r.Out) < len(out) || string(r.Out[:len(out)]) != out || len(r.Out) > len(whole.Out) || string(whole.Out[:len(r.Out)]) != string(r.Out) {
-			t.Fatalf("P10.2: %v: %q with %d of fuel, %q with less, %q with more", u, r.Out, fuel, out, whole.Out)
-		}
-		out = string(r.Out)
-	}
-	if whole.State != api.Running {
-		for _, fuel := range []int{whole.Steps, whole.Steps + 1, whole.Steps * 2, 1<<32 + 1, math.MaxInt} {
-			if r := mid.Run(u, input, fuel); !same(r, whole) {
-				t.Fatalf("P10.2: %v: %v with %d of fuel, %v with %d", u, r, fuel, whole, limit)
-			}
-		}
+	whole, wrong := samples.Fuels(func(fuel int) api.Result { return mid.Run(u, input, fuel) }, limit)
+	if wrong != "" || whole.Checks != 0 {
+		t.Fatalf("P10.1, P10.2: %v: %v, %s", u, whole, wrong)
 	}
 	return whole
 }
@@ -129,16 +112,16 @@ func TestFuel(t *testing.T) {
 func TestFuelEnds(t *testing.T) {
 	for _, fuel := range []int{math.MinInt, -1 << 32, -1, 0} {
 		for _, u := range []api.Unit{unit(ret(0)), unit(jump(0)), unit(load(0, 4, 4), ret(0))} {
-			if r := mid.Run(u, nil, fuel); !same(r, api.Result{}) {
+			if r := mid.Run(u, nil, fuel); !samples.Same(r, api.Result{}) {
 				t.Errorf("P10.1: %d of fuel: %v", fuel, r)
 			}
 		}
-		if r := mid.Run(api.Unit{}, nil, fuel); !same(r, api.Result{State: api.Fault}) {
+		if r := mid.Run(api.Unit{}, nil, fuel); !samples.Same(r, api.Result{State: api.Fault}) {
 			t.Errorf("P10.1: %d of fuel: %v", fuel, r)
 		}
 	}
 	for _, fuel := range []int{1, 2, 1 << 32, math.MaxInt} {
-		if r := mid.Run(unit(ret(0)), nil, fuel); !same(r, api.Result{State: api.Exit, Steps: 1}) {
+		if r := mid.Run(unit(ret(0)), nil, fuel); !samples.Same(r, api.Result{State: api.Exit, Steps: 1}) {
 			t.Errorf("P10.1: %d of fuel: %v", fuel, r)
 		}
 	}
@@ -148,12 +131,12 @@ func TestFuelEnds(t *testing.T) {
 func TestDeep(t *testing.T) {
 	u := api.Unit{Fns: []api.Fn{{Name: "main", Code: []api.Ins{call(-1, "main"), ret(-1)}}}}
 	const fuel = 5000000
-	if r := mid.Run(u, nil, fuel); !same(r, api.Result{Steps: fuel}) {
+	if r := mid.Run(u, nil, fuel); !samples.Same(r, api.Result{Steps: fuel}) {
 		t.Errorf("P6: %v", r)
 	}
 	f := fn("f", []int{0}, branch(0, 2), ret(0), constant(1, -1), op(0, 0, 1, api.ADD), call(0, "f", 0), constant(1, 1), op(0, 0, 1, api.ADD), ret(0))
 	u = units(f, fn("main", nil, constant(0, 60007), call(0, "f", 0), ret(0)))
-	if r := mid.Run(u, nil, math.MaxInt); !same(r, api.Result{State: api.Exit, Code: 60007 & 255, Steps: 3 + 2 + 60007*7}) {
+	if r := mid.Run(u, nil, math.MaxInt); !samples.Same(r, api.Result{State: api.Exit, Code: 60007 & 255, Steps: 3 + 2 + 60007*7}) {
 		t.Errorf("P6: %v", r)
 	}
 }

@@ -6,6 +6,7 @@ import (
 
 	"hauberk/api"
 	"hauberk/mid"
+	"hauberk/samples"
 )
 
 // rich is a unit with all there is: each instruction, registers of both kinds, two slots, variables, functions that answer of either kind, and of none.
@@ -29,7 +30,7 @@ func good(t *testing.T, u api.Unit, want bool, what string) {
 		t.Errorf("P10.1: %s: Good %v, want %v: %v", what, got, want, u)
 	}
 	r := mid.Run(u, []byte("x"), 20)
-	if want && r.State == api.Fault || !want && !same(r, api.Result{State: api.Fault}) {
+	if want && r.State == api.Fault || !want && !samples.Same(r, api.Result{State: api.Fault}) {
 		t.Errorf("P10.1: %s: %v", what, r)
 	}
 }
@@ -113,50 +114,15 @@ func TestBad(t *testing.T) {
 	}
 }
 
-// spoilt are the values that each part of an instruction is tried with.
-var spoilt = []int{math.MinInt, -2, -1, 0, 1, 2, 3, 4, 5, 7, 8, 9, 23, 24, 27, 28, 29, 30, 31, 43, api.MaxMemory - 1, api.MaxMemory, api.MaxMemory + 1, 1 << 32, math.MaxInt}
-
-// changes makes an instruction such that one of its parts is another.
-func changes(i api.Ins) []api.Ins {
-	var l []api.Ins
-	add := func(change func(i *api.Ins)) {
-		j := i
-		change(&j)
-		l = append(l, j)
-	}
-	for _, v := range spoilt {
-		add(func(i *api.Ins) { i.Op = v })
-		add(func(i *api.Ins) { i.Dst = v })
-		add(func(i *api.Ins) { i.A = v })
-		add(func(i *api.Ins) { i.B = v })
-		add(func(i *api.Ins) { i.N = uint64(v) })
-		add(func(i *api.Ins) { i.Size = v })
-		add(func(i *api.Ins) { i.To = v })
-		add(func(i *api.Ins) { i.Args = []int{v} })
-		add(func(i *api.Ins) { i.Args = append(i.Args[:len(i.Args):len(i.Args)], v) })
-		add(func(i *api.Ins) { i.Outs = []int{v} })
-		if len(i.Args) > 1 {
-			add(func(i *api.Ins) { i.Args = []int{v, i.Args[1]} })
-			add(func(i *api.Ins) { i.Args = []int{i.Args[0], v} })
-		}
-	}
-	for _, name := range []string{"", "v", "w", "x", "number", "pointer", "nothing", "main"} {
-		add(func(i *api.Ins) { i.Name = name })
-	}
-	add(func(i *api.Ins) { i.Args = []int{} })
-	add(func(i *api.Ins) { i.Outs = []int{} })
-	return l
-}
-
 // P10.1: of each instruction each part as another, and two of them, against the chapter's words as rows.
 func TestParts(t *testing.T) {
 	tally := map[bool]int{}
 	for k, i := range rich().Fns[3].Code {
-		for _, j := range changes(i) {
+		for _, j := range samples.Changes(i) {
 			for m := range 4 {
 				u, j := rich(), j
 				if m > 0 {
-					others := changes(j)
+					others := samples.Changes(j)
 					j = others[(k*57+m*31)%len(others)]
 				}
 				u.Fns[3].Code[k] = j

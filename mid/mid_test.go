@@ -2,12 +2,12 @@ package mid_test
 
 import (
 	"math"
-	"reflect"
 	"testing"
 
 	"hauberk/api"
 	"hauberk/mid"
 	"hauberk/num"
+	"hauberk/samples"
 )
 
 // plenty is more fuel than the runs need that end.
@@ -58,15 +58,6 @@ func put(a int) api.Ins        { return api.Ins{Op: api.MPut, A: a} }
 func get(dst int) api.Ins      { return api.Ins{Op: api.MGet, Dst: dst} }
 func exit(a int) api.Ins       { return api.Ins{Op: api.MExit, A: a} }
 
-// same tells whether two results are, where an empty list may be nil.
-func same(a, b api.Result) bool {
-	if string(a.Out) != string(b.Out) {
-		return false
-	}
-	a.Out, b.Out = nil, nil
-	return reflect.DeepEqual(a, b)
-}
-
 // ran asks for a run's whole result, of a unit that has to be right.
 func ran(t *testing.T, u api.Unit, input string, want api.Result) {
 	t.Helper()
@@ -74,7 +65,7 @@ func ran(t *testing.T, u api.Unit, input string, want api.Result) {
 		t.Errorf("P10.1: not well formed: %v", u)
 		return
 	}
-	if got := mid.Run(u, []byte(input), plenty); !same(got, want) {
+	if got := mid.Run(u, []byte(input), plenty); !samples.Same(got, want) {
 		t.Errorf("P10.1: %v: %v, want %v", u.Fns, got, want)
 	}
 }
