@@ -5,6 +5,7 @@ import (
 	"testing"
 
 	"hauberk/api"
+	"hauberk/blocks"
 	"hauberk/mid"
 	"hauberk/num"
 	"hauberk/samples"
@@ -31,32 +32,19 @@ func units(l ...api.Fn) api.Unit {
 }
 
 // Instructions, with their parts in the order of api's remarks.
-func constant(dst int, v int) api.Ins    { return api.Ins{Op: api.MConst, Dst: dst, N: num.Of(v)} }
-func move(dst, a int) api.Ins            { return api.Ins{Op: api.MMove, Dst: dst, A: a} }
-func op(dst, a, b int, o uint64) api.Ins { return api.Ins{Op: api.MOp, Dst: dst, A: a, B: b, N: o} }
-func narrow(dst, a, size int) api.Ins    { return api.Ins{Op: api.MNarrow, Dst: dst, A: a, Size: size} }
-func null(dst int) api.Ins               { return api.Ins{Op: api.MNull, Dst: dst} }
-func top(dst int, name string) api.Ins   { return api.Ins{Op: api.MTop, Dst: dst, Name: name} }
-func local(dst int, slot uint64) api.Ins { return api.Ins{Op: api.MLocal, Dst: dst, N: slot} }
-func add(dst, a, b int) api.Ins          { return api.Ins{Op: api.MAdd, Dst: dst, A: a, B: b} }
-func part(dst, a int, off uint64, size int) api.Ins {
-	return api.Ins{Op: api.MPart, Dst: dst, A: a, N: off, Size: size}
-}
-func is(dst, a int) api.Ins         { return api.Ins{Op: api.MIs, Dst: dst, A: a} }
-func load(dst, a, size int) api.Ins { return api.Ins{Op: api.MLoad, Dst: dst, A: a, Size: size} }
-func store(a, b, size int) api.Ins  { return api.Ins{Op: api.MStore, A: a, B: b, Size: size} }
-func empty(slot uint64) api.Ins     { return api.Ins{Op: api.MClear, N: slot} }
-func malloc(dst, a int) api.Ins     { return api.Ins{Op: api.MMalloc, Dst: dst, A: a} }
-func free(a int) api.Ins            { return api.Ins{Op: api.MFree, A: a} }
-func call(dst int, name string, args ...int) api.Ins {
-	return api.Ins{Op: api.MCall, Dst: dst, Name: name, Args: args}
-}
-func ret(a int) api.Ins        { return api.Ins{Op: api.MRet, A: a} }
-func jump(to int) api.Ins      { return api.Ins{Op: api.MJump, To: to} }
-func branch(a, to int) api.Ins { return api.Ins{Op: api.MIf, A: a, To: to} }
-func put(a int) api.Ins        { return api.Ins{Op: api.MPut, A: a} }
-func get(dst int) api.Ins      { return api.Ins{Op: api.MGet, Dst: dst} }
-func exit(a int) api.Ins       { return api.Ins{Op: api.MExit, A: a} }
+var (
+	move, op, narrow = blocks.Move, blocks.Op, blocks.Narrow
+	null, top, local = blocks.Null, blocks.Top, blocks.Local
+	add, part, is    = blocks.Add, blocks.Part, blocks.Is
+	load, store      = blocks.Load, blocks.Store
+	empty            = blocks.Clear
+	malloc, free     = blocks.Malloc, blocks.Free
+	call, ret        = blocks.Call, blocks.Ret
+	jump, branch     = blocks.Jump, blocks.If
+	put, get, exit   = blocks.Put, blocks.Get, blocks.Exit
+)
+
+func constant(dst, v int) api.Ins { return blocks.Const(dst, num.Of(v)) }
 
 // ran asks for a run's whole result, of a unit that has to be right.
 func ran(t *testing.T, u api.Unit, input string, want api.Result) {
@@ -126,10 +114,10 @@ func TestRegisters(t *testing.T) {
 // P10.1: the operations are those of chapter 1.
 func TestOperations(t *testing.T) {
 	numbers := []int{0, 1, -1, 2, 7, -7, 31, 32, 63, 64, 127, 128, 255, 1 << 31, -1 << 31, 1<<31 - 1, 1 << 32, 1<<32 + 5, math.MaxInt, math.MinInt, math.MinInt + 1}
-	for o := uint64(api.ADD); o <= api.REMUW; o++ {
+	for o := api.ADD; o <= api.REMUW; o++ {
 		for _, a := range numbers {
 			for _, b := range numbers {
-				want, _ := num.Do(int(o), num.Of(a), num.Of(b))
+				want, _ := num.Do(o, num.Of(a), num.Of(b))
 				// All 64 bits are held against those that are wanted.
 				u := unit(constant(0, a), constant(1, b), op(2, 0, 1, o), constant(3, num.Signed(want)), op(2, 2, 3, api.XOR), branch(2, 7), ret(2), constant(0, 1), ret(0))
 				if r := mid.Run(u, nil, plenty); r.State != api.Exit || r.Code != 0 {

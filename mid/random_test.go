@@ -1,7 +1,6 @@
 package mid_test
 
 import (
-	"math/rand"
 	"reflect"
 	"testing"
 
@@ -11,26 +10,20 @@ import (
 	"hauberk/samples"
 )
 
-func someInput(seed int64) []byte {
-	r := rand.New(rand.NewSource(seed))
-	input := make([]byte, r.Intn(5))
-	for k := range input {
-		input[k] = byte(r.Intn(256))
-	}
-	return input
-}
+// made is a unit at random, and its input; its loads and stores are of all widths.
+func made(seed int) (api.Unit, []byte) { return samples.Blocks(seed, 1, 4, 8) }
 
 // P10.1: random units that are well formed do what the model does, with as much fuel; they stop in all ways in which one may.
 func TestModel(t *testing.T) {
 	tally, done := map[[2]int]int{}, map[string]int{}
-	for seed := range int64(20000) {
-		u, input := made(seed), someInput(seed)
+	for seed := range 20000 {
+		u, input := made(seed)
 		if !mid.Good(u) || !modelGood(u) {
 			t.Fatalf("P10.1: seed %d: Good %v, the model %v: %v", seed, mid.Good(u), modelGood(u), u)
 		}
 		fuel := 500
 		if seed%8 == 0 {
-			fuel = rand.New(rand.NewSource(seed)).Intn(60)
+			fuel = seed / 8 % 60
 		}
 		got, want := mid.Run(u, input, fuel), modelRun(u, input, fuel, done)
 		if !samples.Same(got, want) {
@@ -52,8 +45,8 @@ func TestModel(t *testing.T) {
 
 // P10.1, P10.2: random units with each fuel up to what they need, or to so much.
 func TestLess(t *testing.T) {
-	for seed := range int64(2000) {
-		u, input := made(seed), someInput(seed)
+	for seed := range 2000 {
+		u, input := made(seed)
 		r := all(t, u, input, 60)
 		if want := modelRun(u, input, 60, map[string]int{}); !samples.Same(r, want) {
 			t.Fatalf("P10.1: seed %d: %v, with %q: %v, want %v", seed, u, input, r, want)
@@ -64,9 +57,9 @@ func TestLess(t *testing.T) {
 // P10.1, P6: random units that were spoilt: Good is what the model says, Run is a Fault, and nothing else, of those that aren't well formed, and what the model does of the others.
 func TestSpoilt(t *testing.T) {
 	tally := map[bool]int{}
-	for seed := range int64(20000) {
-		u := made(seed)
-		s := chance.New(int(seed))
+	for seed := range 20000 {
+		u, _ := made(seed)
+		s := chance.New(seed)
 		for range 1 + s.Below(2) {
 			samples.Spoil(&s, &u)
 		}
@@ -101,14 +94,15 @@ func TestWild(t *testing.T) {
 
 // P10.3, P7 (R6, R8): of random units what is handed in stays, spare room, too, and the answers are the same each time.
 func TestStays(t *testing.T) {
-	for seed := range int64(2000) {
-		u, again, input := samples.Roomy(made(seed)), samples.Roomy(made(seed)), samples.Filled(someInput(seed), 'x')
+	for seed := range 2000 {
+		one, bytes := made(seed)
+		u, again, input := samples.Roomy(one), samples.Roomy(one), samples.Filled(bytes, 'x')
 		good := mid.Good(u)
 		a := mid.Run(u, input, 300)
 		if b := mid.Run(u, input, 300); !samples.Same(a, b) || good != mid.Good(u) {
 			t.Fatalf("P7 (R8): seed %d: %v, then %v", seed, a, b)
 		}
-		if !reflect.DeepEqual(samples.Bare(u), samples.Bare(again)) || string(input[:cap(input)]) != string(someInput(seed))+"xxx" {
+		if !reflect.DeepEqual(samples.Bare(u), samples.Bare(again)) || string(input[:cap(input)]) != string(bytes)+"xxx" {
 			t.Fatalf("P10.3: seed %d: what was handed in is another", seed)
 		}
 	}

@@ -7,16 +7,24 @@ import (
 
 	"hauberk/api"
 	"hauberk/fat"
+	"hauberk/mid"
 	"hauberk/samples"
 )
 
 // All units are well formed; of one seed it is always the same, of no two the same.
 func TestUnit(t *testing.T) {
+	differ(t, samples.Unit, fat.Good)
+	differ(t, func(seed int) (api.Unit, []byte) { return samples.Blocks(seed, 1, 4, 8) }, mid.Good)
+	differ(t, func(seed int) (api.Unit, []byte) { return samples.Blocks(seed, 8) }, mid.Good)
+}
+
+func differ(t *testing.T, made func(int) (api.Unit, []byte), good func(api.Unit) bool) {
+	t.Helper()
 	var units []api.Unit
 	for _, seed := range []int{0, 1, 2, 3, 4, 5, 1000, -1, math.MinInt, math.MaxInt} {
-		u, input := samples.Unit(seed)
-		again, same := samples.Unit(seed)
-		if !fat.Good(u) || !reflect.DeepEqual(u, again) || string(input) != string(same) {
+		u, input := made(seed)
+		again, same := made(seed)
+		if !good(u) || !reflect.DeepEqual(u, again) || string(input) != string(same) {
 			t.Errorf("seed %d: %v, then %v", seed, u, again)
 		}
 		for _, other := range units {

@@ -10,12 +10,13 @@ import (
 // maker makes texts of programs at random, all of them right; most go on for a while before they go wrong, if they do.
 type maker struct {
 	chance.Source
-	wild   int // one of so many pointers is anything
-	vars   []made
-	funcs  []madeFunc
-	answer api.Type
-	loops  int
-	count  int
+	wild     int  // one of so many pointers is anything
+	straight bool // none goes to the middle of a struct
+	vars     []made
+	funcs    []madeFunc
+	answer   api.Type
+	loops    int
+	count    int
 }
 
 type made struct {

@@ -61,7 +61,7 @@ func askew(t api.Type) string {
 
 // ptr is a pointer of just that type.
 func (m *maker) ptr(t api.Type, n int) string {
-	if t.Base == api.Record && t.Stars == 1 && m.rarely() {
+	if t.Base == api.Record && t.Stars == 1 && !m.straight && m.rarely() {
 		return askew(t)
 	}
 	if n > 0 {
