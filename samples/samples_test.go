@@ -14,6 +14,7 @@ import (
 // All units are well formed; of one seed it is always the same, of no two the same.
 func TestUnit(t *testing.T) {
 	differ(t, samples.Unit, fat.Good)
+	differ(t, samples.Loops, fat.Good)
 	differ(t, func(seed int) (api.Unit, []byte) { return samples.Blocks(seed, 1, 4, 8) }, mid.Good)
 	differ(t, func(seed int) (api.Unit, []byte) { return samples.Blocks(seed, 8) }, mid.Good)
 }
